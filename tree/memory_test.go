@@ -21,11 +21,15 @@ func roomy[T any](l []T, spare T) []T {
 }
 
 // span is where a piece of memory lies.
-type span struct{ from, to uintptr }
+type span struct {
+	from, to uintptr
+	// What nobody holds any more could make place for another answer.
+	held unsafe.Pointer
+}
 
 func spanOf(s string) span {
-	at := uintptr(unsafe.Pointer(unsafe.StringData(s)))
-	return span{at, at + uintptr(len(s))}
+	at := unsafe.Pointer(unsafe.StringData(s))
+	return span{uintptr(at), uintptr(at) + uintptr(len(s)), at}
 }
 
 func (a span) meets(b span) bool { return a.from < b.to && b.from < a.to }
